@@ -128,7 +128,7 @@ func (c call) fault() api.Errno {
 		return api.ErrArg
 	case c.kind == "Read" && above(c.n):
 		return api.ErrLong
-	case c.kind == "Write" && len(c.p) > 0 && above(len(c.p)):
+	case c.kind == "Write" && above(len(c.p)):
 		return api.ErrLong
 	}
 	return api.OK
@@ -367,7 +367,7 @@ func drawnCall(d *dice, where []uint64) call {
 	c.n = drawnLength(d, c.at)
 	c.kind = one(d, []string{"Write", "Write", "Write", "Write", "Cut", "Cut", "Drop", "Read", "Read", "Count", "Pieces", "Stretches", "Numbers"})
 	if d.below(300) == 0 {
-		c.at, c.n = one(d, []uint64{api.MaxFile - 1, api.MaxFile + 1, greatest}), 3
+		c.at, c.n = one(d, []uint64{api.MaxFile - 1, api.MaxFile + 1, greatest}), one(d, []int{0, 3})
 	}
 	switch c.kind {
 	case "Write":

@@ -33,13 +33,15 @@ func (c *Contents) Read(ino, at uint64, n int) []byte {
 	return out
 }
 
-// Write: P14.3. Of no bytes nothing changes, wherever they would stand.
+// Write: P14.3. How long p may be is asked first, since of no bytes, too, at may not be above MaxFile.
 func (c *Contents) Write(ino, at uint64, p []byte) {
 	switch {
-	case c.ended() || len(p) == 0:
+	case c.ended():
 		return
 	case beyond(at, len(p)):
 		c.meet(api.ErrLong)
+		return
+	case len(p) == 0:
 		return
 	}
 	for _, x := range c.touched(ino, at, len(p)) {

@@ -15,6 +15,7 @@ func everyCall() []call {
 	return []call{
 		{kind: "Read", ino: 7, n: 1000}, {kind: "Read", ino: 7, n: -1}, {kind: "Read", ino: 7, at: greatest, n: 1}, {kind: "Read", ino: 7},
 		{kind: "Write", ino: 7, p: "a"}, {kind: "Write", ino: 9, at: 500, p: text(1, 900)}, {kind: "Write", ino: 7, at: api.MaxFile, p: "a"}, {kind: "Write", ino: 7},
+		{kind: "Write", ino: 7, at: api.MaxFile}, {kind: "Write", ino: 7, at: api.MaxFile + 1}, {kind: "Write", ino: 9, at: greatest},
 		{kind: "Cut", ino: 7}, {kind: "Cut", ino: 7, at: 500}, {kind: "Cut", ino: 7, at: greatest}, {kind: "Drop", ino: 7}, {kind: "Drop", ino: 9},
 		{kind: "Count", ino: 7}, {kind: "Pieces", ino: 7}, {kind: "Stretches", ino: 7}, {kind: "Numbers"},
 	}
@@ -36,8 +37,11 @@ func (x both) dumb() {
 // TestOwnErrors: each error of its own stays, whatever comes behind it, and aborting both in either order leads back (P14.1, P14.7).
 func TestOwnErrors(t *testing.T) {
 	bad := map[api.Errno][]call{
-		api.ErrArg:  {{kind: "Read", ino: 7, n: -1}, {kind: "Read", ino: 7, at: greatest, n: leastInt}},
-		api.ErrLong: {{kind: "Read", ino: 7, at: api.MaxFile, n: 1}, {kind: "Write", ino: 7, at: api.MaxFile, p: "a"}, {kind: "Write", at: 1, p: text(1, api.MaxFile)}},
+		api.ErrArg: {{kind: "Read", ino: 7, n: -1}, {kind: "Read", ino: 7, at: greatest, n: leastInt}},
+		api.ErrLong: {
+			{kind: "Read", ino: 7, at: api.MaxFile, n: 1}, {kind: "Write", ino: 7, at: api.MaxFile, p: "a"}, {kind: "Write", at: 1, p: text(1, api.MaxFile)},
+			{kind: "Read", ino: 7, at: api.MaxFile + 1}, {kind: "Write", ino: 7, at: api.MaxFile + 1}, {kind: "Write", ino: 9, at: greatest},
+		},
 	}
 	for _, s := range spaces(t) {
 		x := holey(t, s)

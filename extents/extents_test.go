@@ -88,14 +88,16 @@ func TestOpenOfChanged(t *testing.T) {
 // TestNil: every call on nil Contents (P14.7).
 func TestNil(t *testing.T) {
 	var c *extents.Contents
-	for _, at := range []uint64{0, 1, api.MaxFile + 1, greatest} {
+	for _, at := range []uint64{0, 1, api.MaxFile, api.MaxFile + 1, greatest} {
 		for _, n := range []int{leastInt, -1, 0, 1, greatestInt} {
 			if p := c.Read(7, at, n); len(p) != 0 {
 				t.Errorf("Read: %q", p)
 			}
 		}
-		c.Write(7, at, nil)
-		c.Write(7, at, []byte("a"))
+		for _, p := range append(noBytes(), []byte("a")) {
+			c.Write(7, at, p)
+			want(t, "Why", c.Why(), api.OK)
+		}
 		c.Cut(7, at)
 		c.Drop(at)
 		if n := c.Count(at); n != 0 {
@@ -191,13 +193,16 @@ func TestReadsErrors(t *testing.T) {
 	x.held()
 }
 
-// TestWriteNothing: of no bytes nothing changes, wherever they would stand, and there is no error (P14.3).
+// noBytes is all that no bytes are handed in as.
+func noBytes() [][]byte { return [][]byte{nil, {}, []byte("abc")[:0]} }
+
+// TestWriteNothing: of no bytes up to MaxFile nothing changes, no piece comes to be there, and there is no error (P14.3).
 func TestWriteNothing(t *testing.T) {
 	s := wide(t)
 	x := holey(t, s)
 	asked := s.asked()
-	for _, at := range append(borders(6), api.MaxFile-1, api.MaxFile, api.MaxFile+1, 1<<32, 1<<63, greatest) {
-		for _, p := range [][]byte{nil, {}, []byte("abc")[:0]} {
+	for _, at := range append(borders(6), api.MaxFile-1, api.MaxFile) {
+		for _, p := range noBytes() {
 			for _, ino := range []uint64{7, 9} {
 				x.c.Write(ino, at, p)
 				want(t, "Why", x.c.Why(), api.OK)
@@ -208,6 +213,51 @@ func TestWriteNothing(t *testing.T) {
 		t.Errorf("something was changed")
 	}
 	x.held()
+}
+
+// TestWriteNothingAboveTheEnd: of no bytes above MaxFile the error is ErrLong, it stays, and the space is not used (P14.1, P14.3).
+func TestWriteNothingAboveTheEnd(t *testing.T) {
+	s := wide(t)
+	x := holey(t, s)
+	before := s.bytes()
+	for _, at := range []uint64{api.MaxFile + 1, api.MaxFile + 2, api.MaxFile + size, 1 << 32, 1 << 40, 1 << 63, greatest - api.MaxFile, greatest - 1, greatest} {
+		for _, p := range noBytes() {
+			for _, ino := range []uint64{7, 9} {
+				asked := s.asked()
+				x.c.Write(ino, at, p)
+				if s.asked() != asked {
+					t.Errorf("no bytes at %d: the space was used", at)
+				}
+				want(t, "Why", x.c.Why(), api.ErrLong)
+				x.a.why = api.ErrLong
+				x.dumb()
+				x.do(call{kind: "Abort"})
+				x.backAt(before)
+			}
+		}
+	}
+}
+
+// TestWriteNothingBehindAnError: of no bytes, wherever they would stand, another error stays the one that it is (P14.1, P14.3).
+func TestWriteNothingBehindAnError(t *testing.T) {
+	makers := map[api.Errno]func(x both){
+		api.ErrArg: func(x both) { x.do(call{kind: "Read", ino: 7, n: -1}) },
+		errRefused: func(x both) { x.hurt(errRefused) },
+	}
+	for e, maker := range makers {
+		for _, at := range []uint64{0, api.MaxFile, api.MaxFile + 1, greatest} {
+			for _, p := range noBytes() {
+				x := holey(t, wide(t))
+				before := x.s.bytes()
+				maker(x)
+				x.c.Write(7, at, p)
+				want(t, "Why", x.c.Why(), e)
+				x.dumb()
+				x.do(call{kind: "Undo"})
+				x.backAt(before)
+			}
+		}
+	}
 }
 
 // TestWrite: from and up to places beside borders: into holes, over what an older tree has, and over what was written in this batch (P14.3).
